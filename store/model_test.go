@@ -196,7 +196,7 @@ func (m *model) count(key string, in func(block int64) bool) (n int) {
 func headAlone(block int64) bool { return block == inHead }
 func anywhere(int64) bool        { return true }
 
-// come is Append: wholly as the Head asks (9.1), and then with what is put away.
+// come is Append: wholly as the Head asks (9.1), and then, when all has come, with what is put away.
 func (m *model) come(l []api.Series) error {
 	total := 0
 	for _, x := range l {
@@ -205,7 +205,6 @@ func (m *model) come(l []api.Series) error {
 	if total > 40 {
 		return api.ErrLimit
 	}
-	full := -1
 	for i, x := range l {
 		if e := m.wrong(x); e != api.OK {
 			return at(e, i)
@@ -213,12 +212,11 @@ func (m *model) come(l []api.Series) error {
 		for _, s := range x.Samples {
 			m.all = append(m.all, modelSample{key(x.Labels), inHead, s})
 		}
-		if full < 0 && m.count(key(x.Labels), anywhere) > 2000 {
-			full = i
-		}
 	}
-	if full >= 0 {
-		return at(api.ErrFull, full)
+	for i, x := range l {
+		if m.count(key(x.Labels), anywhere) > 2000 {
+			return at(api.ErrFull, i)
+		}
 	}
 	return nil
 }

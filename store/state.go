@@ -71,14 +71,14 @@ func (n *state) takeOut(note string, below int64, g api.Gone) {
 	n.gone = append(n.gone, note)
 }
 
-// full tells the first one whose series would have too many samples, with those that are put away; was is what lay in the Head before.
+// full tells the first one whose series would have too many samples, with all that comes and those that are put away; was is what lay in the Head before.
 func (n state) full(was, l []api.Series) error {
 	for place, one := range l {
 		count := held(was, one.Labels)
 		for _, b := range n.blocks {
 			count += held(b.Series, one.Labels)
 		}
-		for _, x := range l[:place+1] { // a series may come twice
+		for _, x := range l { // a series may come twice: what comes later counts already
 			if label.Compare(x.Labels, one.Labels) == 0 {
 				count += len(x.Samples)
 			}

@@ -448,21 +448,73 @@ func TestSamplesFull(t *testing.T) {
 			s := fullStore(t, room)
 			was := look(s)
 			l := []api.Series{{Labels: other, Samples: even(5000, 2)}, {Labels: one, Samples: even(5000, count)}, {Labels: one, Samples: even(6000, max(room, 1))}, {Labels: other, Samples: even(6000, 2)}}
-			want := "error 12 at 1"
-			if count <= room {
-				want = "error 12 at 2" // by the one behind it, which has room by itself
-			}
-			wantText(t, fmt.Sprint(count, " of ", room), told(s.Append(l)), want)
+			wantText(t, fmt.Sprint(count, " of ", room, ", and more"), told(s.Append(l)), "error 12 at 1") // also where the first of the two has room by itself
 			wantText(t, "none came", look(s), was)
 			if s.Down() {
 				t.Error("it is Down")
 			}
-			want = "error 12 at 1"
+			want := "error 12 at 1"
 			if count <= room {
 				want = ""
 			}
 			wantText(t, fmt.Sprint(count, " of ", room), told(s.Append(l[:2])), want)
 		}
+	}
+}
+
+// batches are all of up to three series that come one behind the other, each the one or the other one, of one sample or of two.
+func batches() (l [][]api.Series) {
+	for most := range 3 {
+		for code := range 4 << (2 * most) {
+			var batch []api.Series
+			for place := range most + 1 {
+				what := code >> (2 * place) & 3
+				batch = append(batch, api.Series{Labels: named(1 + what&1), Samples: even(5000+10*int64(place), 1+what>>1)})
+			}
+			l = append(l, batch)
+		}
+	}
+	return l
+}
+
+// firstFull is the place of the first one whose series comes, in all, with more samples than there is room for; -1: there is none.
+func firstFull(l []api.Series, room map[string]int) int {
+	comes := map[string]int{}
+	for _, x := range l {
+		comes[key(x.Labels)] += len(x.Samples)
+	}
+	return slices.IndexFunc(l, func(x api.Series) bool { return comes[key(x.Labels)] > room[key(x.Labels)] })
+}
+
+// 13.2: what a series would have is what it would have with all that comes of it, so that the first of several is told; wherever the others stand, and if there is room for none, one or several. Of what is told full nothing comes, and nothing is noted.
+func TestTwiceFull(t *testing.T) {
+	for rooms := range 16 {
+		d := &disk.Disk{}
+		s := opened(t, d)
+		room := map[string]int{key(named(1)): rooms % 4, key(named(2)): rooms / 4}
+		fill(t, s, named(1), 1, 1200)
+		fill(t, s, named(2), 1, 300)
+		if err := s.Cut(900); err != nil {
+			t.Fatal(err)
+		}
+		fill(t, s, named(1), 1201, 800-room[key(named(1))])
+		fill(t, s, named(2), 1201, 1700-room[key(named(2))])
+		was := look(s)
+		for _, l := range batches() {
+			place, want := firstFull(l, room), ""
+			if place >= 0 {
+				want = fmt.Sprint("error 12 at ", place)
+			}
+			wantText(t, fmt.Sprint("rooms ", rooms, ": ", text(l)), told(s.Append(l)), want)
+			if place < 0 {
+				s = opened(t, d) // what came is noted
+				if err := s.Delete(gone("5000 9999")); err != nil {
+					t.Fatal(err)
+				}
+			}
+			wantText(t, fmt.Sprint("rooms ", rooms, ": behind ", text(l)), look(s), was)
+		}
+		wantText(t, fmt.Sprint("rooms ", rooms, ": opened anew"), look(opened(t, d)), was)
 	}
 }
 
@@ -485,6 +537,27 @@ func TestHeadFull(t *testing.T) {
 	s := opened(t, &disk.Disk{})
 	fill(t, s, named(1), 1, 2000)
 	wantText(t, "of the Head", told(s.Append([]api.Series{{Labels: named(2), Samples: even(5000, 1)}, {Labels: named(1), Samples: even(5000, 1)}})), "error 12 at 1")
+}
+
+// 13.2: the Head's own (9.1) is told one by one, and ahead: at the second of two, where with what is put away the first one would be told.
+func TestHeadFullTwice(t *testing.T) {
+	for _, row := range []struct {
+		away, head, second int
+		want               string
+	}{
+		{0, 1998, 1, ""}, {0, 1999, 1, "error 12 at 1"}, {0, 2000, 1, "error 12 at 0"},
+		{1, 1997, 1, ""}, {1, 1997, 2, "error 12 at 0"}, {1, 1998, 1, "error 12 at 0"}, {1, 1998, 2, "error 12 at 1"}, {1, 1999, 1, "error 12 at 1"},
+		{40, 1960, 39, "error 12 at 0"},
+	} {
+		s := opened(t, &disk.Disk{})
+		fill(t, s, named(1), 1, row.away)
+		if err := s.Cut(100); err != nil {
+			t.Fatal(err)
+		}
+		fill(t, s, named(1), 101, row.head)
+		l := []api.Series{{Labels: named(1), Samples: even(5000, 1)}, {Labels: named(1), Samples: even(6000, row.second)}}
+		wantText(t, fmt.Sprint(row), told(s.Append(l)), row.want)
+	}
 }
 
 // 13.2: what is taken out, and what goes with its block, leaves room; what is put away, or put together, does not.
